@@ -170,6 +170,23 @@ func TestStepActor(t *testing.T) {
 	}
 }
 
+func TestStepActorGoesOn(t *testing.T) {
+	through := impl.SampleProgram("through")
+	got, written, ok := impl.StepActor(through, impl.NewActor(through), 5)
+	if !ok || written != 0 || !sameActor(got, impl.Actor{Pc: 1, Regs: []int{5, 0, 0, 0}}) {
+		t.Errorf("a read: got %v, %d, %v", got, written, ok)
+	}
+	got, written, ok = impl.StepActor(through, got, 0)
+	if !ok || written != 5 || !sameActor(got, impl.Actor{Pc: 2, Regs: []int{5, 0, 0, 0}}) {
+		t.Errorf("a write: got %v, %d, %v", got, written, ok)
+	}
+	pick := impl.SampleProgram("pick")
+	got, written, ok = impl.StepActor(pick, impl.Actor{Pc: 3, Regs: []int{1, 2, 3, 4}}, 0)
+	if !ok || written != 0 || !sameActor(got, impl.Actor{Pc: 5, Regs: []int{1, 2, 3, 4}}) {
+		t.Errorf("a jump: got %v, %d, %v", got, written, ok)
+	}
+}
+
 // product is 999999 squared, wrapped step by step.
 func product() int {
 	sum := 0

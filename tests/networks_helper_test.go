@@ -183,17 +183,25 @@ func drawnCounts(random *rand.Rand) (ins, outs []int) {
 	return ins, outs
 }
 
-// drawnNetwork has links in any order, between any ports.
+// drawnNetwork has up to as many processes and links as there may be.
 func drawnNetwork(random *rand.Rand) impl.Network {
-	var n impl.Network
-	var sources, targets [][2]int
+	var programs []impl.Program
 	ins, outs := drawnCounts(random)
 	for k := range ins {
-		n.Programs = append(n.Programs, drawnProgram(random, ins[k], outs[k]))
-		for port := range ins[k] {
+		programs = append(programs, drawnProgram(random, ins[k], outs[k]))
+	}
+	return drawnLinks(random, programs)
+}
+
+// drawnLinks makes a network of programs, with links in any order, between any ports.
+func drawnLinks(random *rand.Rand, programs []impl.Program) impl.Network {
+	n := impl.Network{Programs: programs}
+	var sources, targets [][2]int
+	for k, p := range programs {
+		for port := range p.Ins {
 			targets = append(targets, [2]int{k, port})
 		}
-		for port := range outs[k] {
+		for port := range p.Outs {
 			sources = append(sources, [2]int{k, port})
 		}
 	}

@@ -3,6 +3,7 @@ package tests
 import (
 	"math"
 	"slices"
+	"strings"
 	"testing"
 
 	"loop.example/g03224/impl"
@@ -377,9 +378,9 @@ func spread(n impl.Network) impl.Network {
 }
 
 func TestMemoryOfNetworks(t *testing.T) {
-	for _, c := range networkCalls() {
+	for _, c := range slices.Concat(networkCalls(), growthCalls()) {
 		a, b, tokens := roomy(c.a), roomy(c.b), roomFor(c.tokens)
-		if c.name == "join shared" {
+		if strings.HasSuffix(c.name, "shared") {
 			b = a
 		}
 		beforeA, beforeB, beforeTokens := spread(a), spread(b), slices.Clone(tokens[:cap(tokens)])
@@ -424,7 +425,7 @@ func TestOtherCallsChangeNothing(t *testing.T) {
 }
 
 func TestMemoryOfSharedArguments(t *testing.T) {
-	for _, c := range networkCalls() {
+	for _, c := range slices.Concat(networkCalls(), growthCalls()) {
 		got, _ := c.call(c.a, c.b, c.tokens)
 		before, again := cloneNetwork(c.a), cloneNetwork(got)
 		checkOwnLists(t, c.name, got)
